@@ -160,7 +160,7 @@ func TestReadFrameOfGoodNotes(t *testing.T) {
 	for i, n := range goodNotes() {
 		want := impl.Framed{Ok: true, Note: n, Len: 17 + len(n.Text)}
 		if got := impl.ReadFrame(rawOf(n).bytes()); got != want {
-			t.Errorf("note %d: %+v", i, got)
+			t.Errorf("note %d: %#v", i, got)
 		}
 	}
 }
@@ -170,7 +170,7 @@ func TestBytesBehindAFrameAreLeftAlone(t *testing.T) {
 		want := impl.Framed{Ok: true, Note: n, Len: 17 + len(n.Text)}
 		for _, behind := range []string{"\x00", "N", "x", "\xff\xff", strings.Repeat("N", 300), string(impl.Frame(plainNote()))} {
 			if got := impl.ReadFrame(append(rawOf(n).bytes(), behind...)); got != want {
-				t.Errorf("note %d, behind it %.20q: %+v", i, behind, got)
+				t.Errorf("note %d, behind it %.20q: %#v", i, behind, got)
 			}
 		}
 	}
@@ -185,7 +185,7 @@ func TestFramesOneAfterTheOther(t *testing.T) {
 	for i, n := range goodNotes() {
 		x := impl.ReadFrame(all[at:])
 		if !x.Ok || x.Note != n {
-			t.Fatalf("note %d: %+v", i, x)
+			t.Fatalf("note %d: %#v", i, x)
 		}
 		at += x.Len
 	}
@@ -193,7 +193,7 @@ func TestFramesOneAfterTheOther(t *testing.T) {
 		t.Errorf("%d of %d bytes", at, len(all))
 	}
 	if x := impl.ReadFrame(all[at:]); x != (impl.Framed{}) {
-		t.Errorf("behind the last one: %+v", x)
+		t.Errorf("behind the last one: %#v", x)
 	}
 }
 
@@ -202,7 +202,7 @@ func TestReadFrameThatIsCutOff(t *testing.T) {
 		f := impl.Frame(n)
 		for size := range f {
 			if x := impl.ReadFrame(f[:size]); x != (impl.Framed{}) {
-				t.Errorf("note %d, %d of %d bytes: %+v", i, size, len(f), x)
+				t.Errorf("note %d, %d of %d bytes: %#v", i, size, len(f), x)
 			}
 		}
 	}
@@ -212,14 +212,14 @@ func TestReadFrameThatIsCutOff(t *testing.T) {
 func TestReadFrameKeepsToTheLength(t *testing.T) {
 	f := impl.Frame(plainNote())
 	if x := impl.ReadFrame(f[: len(f)-1 : len(f)]); x != (impl.Framed{}) {
-		t.Errorf("%+v", x)
+		t.Errorf("%#v", x)
 	}
 }
 
 func TestReadFrameOfNoBytes(t *testing.T) {
 	for _, b := range [][]byte{nil, {}} {
 		if x := impl.ReadFrame(b); x != (impl.Framed{}) {
-			t.Errorf("%+v", x)
+			t.Errorf("%#v", x)
 		}
 	}
 }
@@ -232,11 +232,11 @@ func TestReadFrameWithAnotherSign(t *testing.T) {
 		}
 		f[0] = byte(sign)
 		if x := impl.ReadFrame(f); x != (impl.Framed{}) {
-			t.Errorf("sign %d: %+v", sign, x)
+			t.Errorf("sign %d: %#v", sign, x)
 		}
 	}
 	if x := impl.ReadFrame(append([]byte{0}, impl.Frame(plainNote())...)); x != (impl.Framed{}) {
-		t.Errorf("a frame that is not at the beginning: %+v", x)
+		t.Errorf("a frame that is not at the beginning: %#v", x)
 	}
 }
 
@@ -249,7 +249,7 @@ func TestReadFrameWithFieldsAtTheirLimits(t *testing.T) {
 	} {
 		want := impl.Note{Tick: int(r.tick), Kind: int(r.kind), Who: int(r.who), Text: r.text}
 		if x := impl.ReadFrame(r.bytes()); !x.Ok || x.Note != want {
-			t.Errorf("case %d: %+v", i, x)
+			t.Errorf("case %d: %#v", i, x)
 		}
 	}
 }
@@ -275,7 +275,7 @@ func TestReadFrameWithFieldsPastTheirLimits(t *testing.T) {
 		{sign: 'N', size: 1, tick: 1000000001, n: 7, text: "x"},
 	} {
 		if x := impl.ReadFrame(r.bytes()); x != (impl.Framed{}) {
-			t.Errorf("case %d: %+v", i, x)
+			t.Errorf("case %d: %#v", i, x)
 		}
 	}
 }
@@ -320,10 +320,10 @@ func checkRead(t *testing.T, b []byte) {
 	}
 	got := impl.ReadFrame(b)
 	if got != want {
-		t.Fatalf("%x: %+v, not %+v", b, got, want)
+		t.Fatalf("%x: %#v, not %#v", b, got, want)
 	}
 	if got.Ok && !bytes.Equal(impl.Frame(got.Note), b[:got.Len]) {
-		t.Fatalf("%x is not the frame of %+v", b, got.Note)
+		t.Fatalf("%x is not the frame of %#v", b, got.Note)
 	}
 }
 
@@ -341,7 +341,7 @@ func TestReadFrameLeavesItsArgument(t *testing.T) {
 			t.Errorf("case %d: %x became %x", i, was, b)
 		}
 		if again := impl.ReadFrame(b); again != first {
-			t.Errorf("case %d: %+v, then %+v", i, first, again)
+			t.Errorf("case %d: %#v, then %#v", i, first, again)
 		}
 	}
 }
@@ -352,7 +352,7 @@ func TestAnswersAreNewMemory(t *testing.T) {
 	other := impl.Frame(plainNote())
 	clear(b)
 	if x.Note != plainNote() {
-		t.Errorf("a note that was read changed with the bytes: %+v", x.Note)
+		t.Errorf("a note that was read changed with the bytes: %#v", x.Note)
 	}
 	if !bytes.Equal(other, rawOf(plainNote()).bytes()) || !bytes.Equal(impl.Frame(plainNote()), other) {
 		t.Error("two frames share memory")
