@@ -307,19 +307,24 @@ func TestReadFrameOfAnyBytes(t *testing.T) {
 	}
 }
 
-// checkRead reads the fields without the program and asks that ReadFrame says the same.
+// readNote reads the fields of a frame without the program.
+func readNote(b []byte) impl.Framed {
+	if len(b) < 17 || len(b) < 17+int(b[1]) || b[0] != 'N' {
+		return impl.Framed{}
+	}
+	tick, who := binary.LittleEndian.Uint32(b[2:]), binary.LittleEndian.Uint16(b[7:])
+	if tick > 1000000000 || b[6] > 100 || who > 1000 || b[1] > 200 {
+		return impl.Framed{}
+	}
+	size := 17 + int(b[1])
+	n := impl.Note{Tick: int(tick), Kind: int(b[6]), Who: int(who), N: int64(binary.LittleEndian.Uint64(b[9:])), Text: string(b[17:size])}
+	return impl.Framed{Ok: true, Note: n, Len: size}
+}
+
 func checkRead(t *testing.T, b []byte) {
 	t.Helper()
-	var want impl.Framed
-	if len(b) >= 17 && len(b) >= 17+int(b[1]) && b[0] == 'N' {
-		tick, who := binary.LittleEndian.Uint32(b[2:]), binary.LittleEndian.Uint16(b[7:])
-		if tick <= 1000000000 && b[6] <= 100 && who <= 1000 && b[1] <= 200 {
-			want.Ok, want.Len = true, 17+int(b[1])
-			want.Note = impl.Note{Tick: int(tick), Kind: int(b[6]), Who: int(who), N: int64(binary.LittleEndian.Uint64(b[9:])), Text: string(b[17:want.Len])}
-		}
-	}
 	got := impl.ReadFrame(b)
-	if got != want {
+	if want := readNote(b); got != want {
 		t.Fatalf("%x: %#v, not %#v", b, got, want)
 	}
 	if got.Ok && !bytes.Equal(impl.Frame(got.Note), b[:got.Len]) {
